@@ -1,0 +1,51 @@
+// Package orbit: what becomes of patterns of cells: see DOC.md.
+package orbit
+
+// Errno is what a call answers: OK or the reason for a refusal.
+type Errno int
+
+const (
+	OK       Errno = 0
+	ErrLong  Errno = 1 // a text above its bound
+	ErrForm  Errno = 2 // no pattern
+	ErrRule  Errno = 3 // no rule
+	ErrFar   Errno = 4 // a cell too far out
+	ErrCells Errno = 5 // too many cells
+	ErrRange Errno = 6 // a number out of its range
+	ErrSteps Errno = 7 // a pattern that does not come back in time
+)
+
+const (
+	maxText  = 1500                // bytes of a pattern's text
+	maxRule  = 24                  // bytes of a rule
+	maxRun   = 9999                // what one run counts
+	maxCoord = 2000000000000000000 // how far out a cell may live
+	maxCells = 100                 // cells of a pattern
+)
+
+// Cycle tells how a pattern comes back.
+type Cycle struct{ From, Period, DX, DY int }
+
+// Rule tells whether a text is a rule (P3).
+func Rule(rule string) (Errno, int) {
+	return attempt(func() { readRule(rule) })
+}
+
+// Print writes a pattern in its plain form (P4).
+func Print(text string) (string, Errno, int) {
+	plain := ""
+	errno, at := attempt(func() { plain = plainText(readPattern(text)) })
+	return plain, errno, at
+}
+
+// Step tells what a pattern is after n generations (P5). It is not built yet.
+func Step(rule string, text string, n int) (string, Errno, int) { return "", OK, 0 }
+
+// Orbit tells how a pattern comes back (P6, P7). It is not built yet.
+func Orbit(rule string, text string) (Cycle, Errno, int) { return Cycle{}, OK, 0 }
+
+// Parts takes a pattern that has come back apart (P8, P9). It is not built yet.
+func Parts(rule string, text string) ([]string, Errno, int) { return nil, OK, 0 }
+
+// Code names a pattern (P10, P11). It is not built yet.
+func Code(rule string, text string) (string, Errno, int) { return "", OK, 0 }
