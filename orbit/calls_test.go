@@ -26,7 +26,8 @@ func answers(rule, text string, n int) []any {
 func oddTexts() []string {
 	texts := []string{
 		"", "\x00", "\xff\xfe", "B3/S23", "B/S", "0 0 !", "0 0 bo$2bo$3o!", "-", "0 -",
-		"0 0 0", "0 0 3", "0 0 100o!", "0 0 101o!", "9999999999999999999 9999999999999999999 9999o!",
+		"0 0 0", "0 0 3", "0 0 100o!", "2000000000000000000 -2000000000000000000 o!",
+		"1999999999999999998 0 bo$2bo$3o!", "0 0 obobo$bo2bo$o$b4o!", "0 0 o9999$9999$o!", "0 0 101o!", "9999999999999999999 9999999999999999999 9999o!",
 		"-9999999999999999999 -9999999999999999999 9999$9999b9999o!",
 		"0 0 " + strings.Repeat("9999o", 299) + "!", "0 0 " + strings.Repeat("9999$", 298) + "o!",
 	}
@@ -65,19 +66,45 @@ func TestP1ZeroBesideError(t *testing.T) {
 	}
 }
 
+// The calls that take a rule as well tell a place at a wrong rule or form
+// alone.
+func TestP1ZeroBesideErrorOfRuns(t *testing.T) {
+	for _, text := range oddTexts() {
+		for _, rule := range []string{life, growing, "B2/S", "B", text} {
+			for _, n := range []int{-1, 3, 200, 201} {
+				plain, e, at := orbit.Step(rule, text, n)
+				if (e == orbit.OK) == (plain == "") || e != orbit.ErrRule && e != orbit.ErrForm && at != 0 {
+					t.Errorf("Step(%.40q, %.40q, %d) = %q, %d, %d", rule, text, n, plain, e, at)
+				}
+			}
+			cycle, e, at := orbit.Orbit(rule, text)
+			if (e == orbit.OK) == (cycle.Period == 0) || e != orbit.ErrRule && e != orbit.ErrForm && at != 0 {
+				t.Errorf("Orbit(%.40q, %.40q) = %+v, %d, %d", rule, text, cycle, e, at)
+			}
+		}
+	}
+}
+
+func ruleFor(i int, text string) string {
+	if i%2 == 0 {
+		return text
+	}
+	return severalRules[i%len(severalRules)]
+}
+
 // The same questions in another order, and at the same time, have the same
 // answers.
 func TestP2ArgumentsAlone(t *testing.T) {
 	texts := oddTexts()
 	first := make([][]any, len(texts))
 	for i, text := range texts {
-		first[i] = answers(text, text, i)
+		first[i] = answers(ruleFor(i, text), text, i)
 	}
 	var group sync.WaitGroup
 	for range 4 {
 		group.Go(func() {
 			for i := len(texts) - 1; i >= 0; i-- {
-				if again := answers(texts[i], texts[i], i); !reflect.DeepEqual(again, first[i]) {
+				if again := answers(ruleFor(i, texts[i]), texts[i], i); !reflect.DeepEqual(again, first[i]) {
 					t.Errorf("at %.40q: %v, then %v", texts[i], first[i], again)
 				}
 			}

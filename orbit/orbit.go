@@ -21,6 +21,8 @@ const (
 	maxRun   = 9999                // what one run counts
 	maxCoord = 2000000000000000000 // how far out a cell may live
 	maxCells = 100                 // cells of a pattern
+	maxSteps = 200                 // generations that are looked at
+	maxAfter = 1000000000000000000 // generations that may be asked for
 )
 
 // Cycle tells how a pattern comes back.
@@ -38,11 +40,25 @@ func Print(text string) (string, Errno, int) {
 	return plain, errno, at
 }
 
-// Step tells what a pattern is after n generations (P5). It is not built yet.
-func Step(rule string, text string, n int) (string, Errno, int) { return "", OK, 0 }
+// Step tells what a pattern is after n generations (P5).
+func Step(rule string, text string, n int) (string, Errno, int) {
+	plain := ""
+	errno, at := attempt(func() {
+		l, first := readBoth(rule, text)
+		plain = plainText(l.after(first, n))
+	})
+	return plain, errno, at
+}
 
-// Orbit tells how a pattern comes back (P6, P7). It is not built yet.
-func Orbit(rule string, text string) (Cycle, Errno, int) { return Cycle{}, OK, 0 }
+// Orbit tells how a pattern comes back (P6, P7).
+func Orbit(rule string, text string) (Cycle, Errno, int) {
+	cycle := Cycle{}
+	errno, at := attempt(func() {
+		l, first := readBoth(rule, text)
+		cycle = l.follow(first).cycle
+	})
+	return cycle, errno, at
+}
 
 // Parts takes a pattern that has come back apart (P8, P9). It is not built yet.
 func Parts(rule string, text string) ([]string, Errno, int) { return nil, OK, 0 }

@@ -7,6 +7,12 @@ const (
 	countDigits  = 4
 )
 
+// readBoth gives up at the rule first, whatever the text is.
+func readBoth(rule, text string) (law, pattern) {
+	l := readRule(rule)
+	return l, readPattern(text)
+}
+
 // readPattern gives up if the text is no pattern within the limits. The form
 // of the whole text comes first: a wrong byte at its end goes ahead of a cell
 // too far out at its beginning.

@@ -1,7 +1,8 @@
 package orbit
 
-// refusal is what the readers panic with, so that no level between the byte
-// that is wrong and the call has to hand it on.
+// refusal is what a call's work panics with, so that no level between what is
+// wrong (a byte, or a generation with too many cells) and the call has to hand
+// it on.
 type refusal struct {
 	errno Errno
 	at    int
