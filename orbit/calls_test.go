@@ -81,6 +81,14 @@ func TestP1ZeroBesideErrorOfRuns(t *testing.T) {
 			if (e == orbit.OK) == (cycle.Period == 0) || e != orbit.ErrRule && e != orbit.ErrForm && at != 0 {
 				t.Errorf("Orbit(%.40q, %.40q) = %+v, %d, %d", rule, text, cycle, e, at)
 			}
+			parts, e, at := orbit.Parts(rule, text)
+			if e != orbit.OK && parts != nil || e != orbit.ErrRule && e != orbit.ErrForm && at != 0 {
+				t.Errorf("Parts(%.40q, %.40q) = %q, %d, %d", rule, text, parts, e, at)
+			}
+			code, e, at := orbit.Code(rule, text)
+			if (e == orbit.OK) == (code == "") || e != orbit.ErrRule && e != orbit.ErrForm && at != 0 {
+				t.Errorf("Code(%.40q, %.40q) = %q, %d, %d", rule, text, code, e, at)
+			}
 		}
 	}
 }

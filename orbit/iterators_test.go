@@ -23,6 +23,35 @@ func TestCellsInOrder(t *testing.T) {
 	}
 }
 
+func TestNear(t *testing.T) {
+	p := readPattern("-3 -3 7o$7o$7o$7o$7o$7o$7o!")
+	for apart := range 3 {
+		var want []int
+		for i, c := range p {
+			if max(c[0], -c[0], c[1], -c[1]) <= apart {
+				want = append(want, i)
+			}
+		}
+		if got := slices.Collect(p.near(cell{}, apart)); !slices.Equal(got, want) || len(got) != (2*apart+1)*(2*apart+1) {
+			t.Errorf("no further away than %d are %v, want %v", apart, got, want)
+		}
+	}
+	if got := slices.Collect(p.near(cell{6, 0}, 2)); got != nil {
+		t.Errorf("near a cell beside the pattern are %v", got)
+	}
+}
+
+func TestTurned(t *testing.T) {
+	want := []pattern{
+		{{1, 2}, {5, 3}}, {{-1, 2}, {-5, 3}}, {{5, -3}, {1, -2}}, {{-5, -3}, {-1, -2}},
+		{{2, 1}, {3, 5}}, {{-2, 1}, {-3, 5}}, {{3, -5}, {2, -1}}, {{-3, -5}, {-2, -1}},
+	}
+	got := slices.Collect(pattern{{1, 2}, {5, 3}}.turned())
+	if !slices.EqualFunc(got, want, slices.Equal[pattern]) {
+		t.Errorf("turned it is %v", got)
+	}
+}
+
 // An iterator that went on would panic.
 func TestIteratorsStopEarly(t *testing.T) {
 	p := readPattern("0 0 3o$obo!")
@@ -33,6 +62,12 @@ func TestIteratorsStopEarly(t *testing.T) {
 		break
 	}
 	for range p.spans() {
+		break
+	}
+	for range p.near(cell{}, 2) {
+		break
+	}
+	for range p.turned() {
 		break
 	}
 	for range readRule("B3/S23").generations(p) {

@@ -53,15 +53,26 @@ func Step(rule string, text string, n int) (string, Errno, int) {
 // Orbit tells how a pattern comes back (P6, P7).
 func Orbit(rule string, text string) (Cycle, Errno, int) {
 	cycle := Cycle{}
-	errno, at := attempt(func() {
-		l, first := readBoth(rule, text)
-		cycle = l.follow(first).cycle
-	})
+	errno, at := attempt(func() { cycle = readStory(rule, text).cycle })
 	return cycle, errno, at
 }
 
-// Parts takes a pattern that has come back apart (P8, P9). It is not built yet.
-func Parts(rule string, text string) ([]string, Errno, int) { return nil, OK, 0 }
+// Parts takes a pattern that has come back apart into what lives side by side
+// (P8, P9).
+func Parts(rule string, text string) ([]string, Errno, int) {
+	var texts []string
+	errno, at := attempt(func() {
+		for _, part := range readStory(rule, text).parts() {
+			texts = append(texts, plainText(part))
+		}
+	})
+	return texts, errno, at
+}
 
-// Code names a pattern (P10, P11). It is not built yet.
-func Code(rule string, text string) (string, Errno, int) { return "", OK, 0 }
+// Code names a pattern that comes back, wherever it lies, however it is turned
+// and whichever of its phases it is in (P10, P11).
+func Code(rule string, text string) (string, Errno, int) {
+	code := ""
+	errno, at := attempt(func() { code = readStory(rule, text).code() })
+	return code, errno, at
+}

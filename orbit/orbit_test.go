@@ -8,6 +8,8 @@ import (
 	"orbit/orbit"
 )
 
+var tooLong = strings.Repeat("x", 1501)
+
 const (
 	life    = "B3/S23"
 	growing = "B12345678/S012345678"
@@ -107,35 +109,40 @@ func TestP6Anywhere(t *testing.T) {
 	checkOrbit(t, life, "1999999999999999998 1999999999999999998 bo$2bo$3o!", orbit.Cycle{From: 0, Period: 4, DX: 1, DY: 1})
 }
 
-func TestP6ErrorsInOrder(t *testing.T) {
-	long := strings.Repeat("x", 1501)
-	checkNoOrbit(t, long, long, orbit.ErrLong, 0)
-	checkNoOrbit(t, "B3/S32", long, orbit.ErrRule, 5)
-	checkNoOrbit(t, "B3/S3", long, orbit.ErrLong, 0)
-	checkNoOrbit(t, "", "0 0 101o!", orbit.ErrRule, 0)
-	checkNoOrbit(t, "B3", "x", orbit.ErrRule, 2)
-	checkNoOrbit(t, growing, "0 0 101o", orbit.ErrForm, 8)
-	checkNoOrbit(t, growing, "0 0 03o!", orbit.ErrForm, 4)
-	checkNoOrbit(t, growing, beyond+" 0 101o!", orbit.ErrFar, 0)
-	checkNoOrbit(t, growing, far+" 0 2o!", orbit.ErrFar, 0)
-	checkNoOrbit(t, "B/S", "0 0 101o!", orbit.ErrCells, 0)
-	checkNoOrbit(t, growing, far+" "+far+" o!", orbit.ErrCells, 0)
+// errorsInOrder is inputs with several things wrong, with the error that is
+// named first.
+var errorsInOrder = []struct {
+	rule, text string
+	errno      orbit.Errno
+	at         int
+}{
+	{tooLong, tooLong, orbit.ErrLong, 0},
+	{"B3/S32", tooLong, orbit.ErrRule, 5},
+	{"B3/S3", tooLong, orbit.ErrLong, 0},
+	{"", "0 0 101o!", orbit.ErrRule, 0},
+	{"B3", "x", orbit.ErrRule, 2},
+	{life, "0 x", orbit.ErrForm, 2},
+	{growing, "0 0 101o", orbit.ErrForm, 8},
+	{growing, "0 0 03o!", orbit.ErrForm, 4},
+	{growing, beyond + " 0 101o!", orbit.ErrFar, 0},
+	{growing, far + " 0 2o!", orbit.ErrFar, 0},
+	{"B/S", "0 0 101o!", orbit.ErrCells, 0},
+	{growing, far + " " + far + " o!", orbit.ErrCells, 0},
+	{"B2/S", far + " 0 o$o!", orbit.ErrSteps, 0},
 }
 
-var severalRules = []string{
-	life, "B36/S23", "B2/S", "B3/S12", "B36/S125", "B34/S34", "B2/S3", "B25/S4",
-	"B3/S0", "B1/S", "B/S0123", "B45678/S2345", "B8/S012345678",
+func TestP6ErrorsInOrder(t *testing.T) {
+	for _, c := range errorsInOrder {
+		checkNoOrbit(t, c.rule, c.text, c.errno, c.at)
+	}
 }
 
 func TestP6AllSmallPatterns(t *testing.T) {
-	for _, rule := range severalRules {
-		for number := range 512 {
-			text := squareText(number)
-			if want, errno := slowOrbit(rule, text); errno != orbit.OK {
-				checkNoOrbit(t, rule, text, errno, 0)
-			} else {
-				checkOrbit(t, rule, text, want)
-			}
+	for _, c := range smallPatterns() {
+		if c.errno != orbit.OK {
+			checkNoOrbit(t, c.rule, c.text, c.errno, 0)
+		} else {
+			checkOrbit(t, c.rule, c.text, c.cycle)
 		}
 	}
 }

@@ -68,6 +68,21 @@ func (p pattern) has(c cell) bool {
 	return found
 }
 
+// near gives out the numbers of the cells whose x and y differ by no more than
+// apart from those of a cell.
+func (p pattern) near(c cell, apart int) iter.Seq[int] {
+	return func(yield func(int) bool) {
+		least := cell{c[0] - apart, c[1] - apart}
+		most := cell{c[0] + apart, c[1] + apart}
+		i, _ := slices.BinarySearchFunc(p, least, cell.compare)
+		for ; i < len(p) && p[i].compare(most) <= 0; i++ {
+			if least[0] <= p[i][0] && p[i][0] <= most[0] && !yield(i) {
+				return
+			}
+		}
+	}
+}
+
 func (p pattern) isFar() bool {
 	for c := range p.cells() {
 		if c.isFar() {

@@ -6,6 +6,7 @@ import (
 	"slices"
 	"strconv"
 	"strings"
+	"sync"
 	"testing"
 
 	"orbit/orbit"
@@ -143,6 +144,31 @@ func squareText(number int) string {
 	}
 	return string(append(text, '!'))
 }
+
+var severalRules = []string{
+	life, "B36/S23", "B2/S", "B3/S12", "B36/S125", "B34/S34", "B2/S3", "B25/S4",
+	"B3/S0", "B1/S", "B/S0123", "B45678/S2345", "B8/S012345678", keeping,
+}
+
+// told is what the slow way tells of a pattern.
+type told struct {
+	rule, text string
+	cycle      orbit.Cycle
+	errno      orbit.Errno
+}
+
+// smallPatterns is all patterns of 3 by 3 cells under several rules.
+var smallPatterns = sync.OnceValue(func() []told {
+	var list []told
+	for _, rule := range severalRules {
+		for number := range 512 {
+			text := squareText(number)
+			cycle, errno := slowOrbit(rule, text)
+			list = append(list, told{rule, text, cycle, errno})
+		}
+	}
+	return list
+})
 
 // The slow way itself is held against what everybody knows of a glider.
 func TestSlowWay(t *testing.T) {

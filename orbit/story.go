@@ -9,6 +9,12 @@ type story struct {
 	cycle       Cycle
 }
 
+// readStory gives up at all that is wrong with the rule and the text first.
+func readStory(rule, text string) story {
+	l, first := readBoth(rule, text)
+	return l.follow(first)
+}
+
 // follow gives up if the pattern does not come back in time.
 func (l law) follow(first pattern) story {
 	var s story
